@@ -239,6 +239,7 @@ func TestCopyRefused(t *testing.T) { // P21.2, P1
 	}
 	refused(x.f, "/", nil, "/", api.ErrNil)
 	refused(nil, "/a", nil, "/b", api.ErrNil)
+	refused(nil, "/a", nil, "/", api.ErrInside) // named ahead of ErrNil
 	uses(t, x.f, "/a", 16)
 	refused(x.f, "/d", x.g, "/e", api.ErrHandles)
 	is(t, "Close", x.f.Close(0), api.OK)
